@@ -1,18 +1,21 @@
 package doc
 
-import "refectory/api"
+import (
+	"refectory/api"
+	"refectory/cursor"
+)
 
 func (p *parser) document() api.Doc {
 	var d api.Doc
 	p.define(&d)
-	for p.at < len(p.tokens) {
+	for p.Left() > 0 {
 		p.define(&d)
 	}
 	return d
 }
 
 func (p *parser) define(d *api.Doc) {
-	if p.takeWord("fragment") {
+	if p.TakeWord("fragment") {
 		d.Frags = append(d.Frags, p.fragment())
 		return
 	}
@@ -21,7 +24,7 @@ func (p *parser) define(d *api.Doc) {
 
 func (p *parser) operation() api.Op {
 	var o api.Op
-	if !p.isSign("{") {
+	if !p.IsSign("{") {
 		o = p.head()
 	}
 	o.Sels = p.set()
@@ -30,25 +33,23 @@ func (p *parser) operation() api.Op {
 
 // head is an operation without its set.
 func (p *parser) head() api.Op {
-	o := api.Op{Mutation: p.takeWord("mutation")}
+	o := api.Op{Mutation: p.TakeWord("mutation")}
 	if !o.Mutation {
-		p.word("query")
+		p.Word("query")
 	}
-	o.Name = p.nameOrNone()
-	o.Vars = severalOrNone(p, "(", p.variable, ")")
+	o.Name = p.NameOrNone()
+	o.Vars = cursor.SeveralOrNone(p.Cursor, "(", p.variable, ")")
 	o.Dirs = p.directives()
 	return o
 }
 
 func (p *parser) variable() api.VarDef {
 	var v api.VarDef
-	p.sign("$")
-	v.Name = p.name()
-	p.sign(":")
-	v.Type = p.typeOf()
-	if p.takeSign("=") {
-		v.Default = p.constant()
-	}
+	p.Sign("$")
+	v.Name = p.Name()
+	p.Sign(":")
+	v.Type = p.Type()
+	v.Default = p.Default()
 	return v
 }
 
@@ -56,23 +57,23 @@ func (p *parser) variable() api.VarDef {
 func (p *parser) fragment() api.Frag {
 	var f api.Frag
 	f.Name = p.fragmentName()
-	p.word("on")
-	f.On = p.name()
+	p.Word("on")
+	f.On = p.Name()
 	f.Dirs = p.directives()
 	f.Sels = p.set()
 	return f
 }
 
 func (p *parser) fragmentName() string {
-	if p.isWord("on") {
-		p.fail(api.ErrText)
+	if p.NextName() == "on" {
+		p.Fail(api.ErrText)
 	}
-	return p.name()
+	return p.Name()
 }
 
 func (p *parser) directives() []api.Dir {
 	var dirs []api.Dir
-	for p.takeSign("@") {
+	for p.TakeSign("@") {
 		dirs = append(dirs, p.directive())
 	}
 	return dirs
@@ -81,19 +82,19 @@ func (p *parser) directives() []api.Dir {
 // directive stands behind the sign.
 func (p *parser) directive() api.Dir {
 	var d api.Dir
-	d.Name = p.name()
+	d.Name = p.Name()
 	d.Args = p.arguments()
 	return d
 }
 
 func (p *parser) arguments() []api.Arg {
-	return severalOrNone(p, "(", p.argument, ")")
+	return cursor.SeveralOrNone(p.Cursor, "(", p.argument, ")")
 }
 
 func (p *parser) argument() api.Arg {
 	var a api.Arg
-	a.Name = p.name()
-	p.sign(":")
-	a.Value = p.value()
+	a.Name = p.Name()
+	p.Sign(":")
+	a.Value = p.Value()
 	return a
 }

@@ -2,72 +2,68 @@ package print
 
 import (
 	"refectory/api"
+	"refectory/pen"
 	"refectory/value"
 )
 
 func (w *writer) document(d api.Doc) {
-	several(w, w.operation, " ", d.Ops...)
+	pen.Several(w.Pen, w.operation, " ", d.Ops...)
 	if len(d.Ops) > 0 && len(d.Frags) > 0 {
-		w.write(" ")
+		w.Write(" ")
 	}
-	several(w, w.fragment, " ", d.Frags...)
+	pen.Several(w.Pen, w.fragment, " ", d.Frags...)
 }
 
 func (w *writer) operation(o api.Op) {
 	if o.Mutation {
-		w.write("mutation")
+		w.Write("mutation")
 	} else {
-		w.write("query")
+		w.Write("query")
 	}
 	if o.Name != "" {
-		w.write(" ", o.Name)
+		w.Write(" ", o.Name)
 	}
-	inBrackets(w, w.variable, o.Vars...)
+	pen.InBrackets(w.Pen, w.variable, o.Vars...)
 	w.directives(o.Dirs)
 	w.set(o.Sels)
 }
 
 func (w *writer) variable(v api.VarDef) {
-	w.write("$", v.Name, ":", value.TypeText(v.Type))
-	if v.Default.Kind != 0 {
-		w.write("=")
-		w.value(v.Default)
-	}
+	w.Write("$", v.Name, ":", value.TypeText(v.Type))
+	w.Default(v.Default)
 }
 
 func (w *writer) fragment(f api.Frag) {
-	w.write("fragment ", f.Name, " on ", f.On)
+	w.Write("fragment ", f.Name, " on ", f.On)
 	w.directives(f.Dirs)
 	w.set(f.Sels)
 }
 
 func (w *writer) directives(dirs []api.Dir) {
-	several(w, w.directive, "", dirs...)
+	pen.Several(w.Pen, w.directive, "", dirs...)
 }
 
 func (w *writer) directive(d api.Dir) {
-	w.write("@", d.Name)
+	w.Write("@", d.Name)
 	w.arguments(d.Args)
 }
 
 func (w *writer) arguments(args []api.Arg) {
-	inBrackets(w, w.argument, args...)
+	pen.InBrackets(w.Pen, w.argument, args...)
 }
 
 func (w *writer) argument(a api.Arg) {
-	w.write(a.Name, ":")
-	w.value(a.Value)
+	w.Write(a.Name, ":")
+	w.Value(a.Value)
 }
 
 func (w *writer) set(sels []api.Sel) {
 	if w.sets == deepest {
-		w.full = true
+		w.Fill()
 		return
 	}
 	w.sets++
-	w.write("{")
-	several(w, w.selection, " ", sels...)
-	w.write("}")
+	pen.InBraces(w.Pen, w.selection, sels...)
 	w.sets--
 }
 
@@ -77,7 +73,7 @@ func (w *writer) selection(s api.Sel) {
 	case api.Field:
 		w.field(s)
 	case api.Spread:
-		w.write("...", s.Name)
+		w.Write("...", s.Name)
 		w.directives(s.Dirs)
 	case api.Inline:
 		w.inline(s)
@@ -86,9 +82,9 @@ func (w *writer) selection(s api.Sel) {
 
 func (w *writer) field(s api.Sel) {
 	if s.Alias != "" {
-		w.write(s.Alias, ":")
+		w.Write(s.Alias, ":")
 	}
-	w.write(s.Name)
+	w.Write(s.Name)
 	w.arguments(s.Args)
 	w.directives(s.Dirs)
 	if len(s.Sels) > 0 {
@@ -97,9 +93,9 @@ func (w *writer) field(s api.Sel) {
 }
 
 func (w *writer) inline(s api.Sel) {
-	w.write("...")
+	w.Write("...")
 	if s.On != "" {
-		w.write("on ", s.On)
+		w.Write("on ", s.On)
 	}
 	w.directives(s.Dirs)
 	w.set(s.Sels)

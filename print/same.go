@@ -4,6 +4,7 @@ import (
 	"slices"
 
 	"refectory/api"
+	"refectory/pen"
 )
 
 // isSame goes no further into a document than the parsed one goes, which has an end in any case.
@@ -28,7 +29,7 @@ func isSameFragment(a, b api.Frag) bool {
 }
 
 func isSameVariable(a, b api.VarDef) bool {
-	return a.Name == b.Name && a.Type == b.Type && isSameValue(a.Default, b.Default)
+	return a.Name == b.Name && a.Type == b.Type && pen.Same(a.Default, b.Default)
 }
 
 func isSameDirective(a, b api.Dir) bool {
@@ -36,15 +37,7 @@ func isSameDirective(a, b api.Dir) bool {
 }
 
 func isSameArgument(a, b api.Arg) bool {
-	return a.Name == b.Name && isSameValue(a.Value, b.Value)
-}
-
-// isSameValue asks for more than layer 5's Same: an object's names stand in one order.
-func isSameValue(a, b api.Value) bool {
-	return a.Kind == b.Kind &&
-		a.S == b.S &&
-		slices.Equal(a.Names, b.Names) &&
-		slices.EqualFunc(a.List, b.List, isSameValue)
+	return a.Name == b.Name && pen.Same(a.Value, b.Value)
 }
 
 // isSameSelection asks for all parts, whatever the kind: those that a kind has not are not in the text.
