@@ -4,6 +4,7 @@ import (
 	"slices"
 
 	"refectory/api"
+	"refectory/fresh"
 )
 
 // pair is two lists that are walked side by side.
@@ -47,23 +48,5 @@ func Get(v api.Value, name string) (api.Value, bool) {
 	if at < 0 || at >= len(v.List) {
 		return api.Value{}, false
 	}
-	return copyOf(v.List[at]), true
-}
-
-// copyOf is a value that shares no list with v. Like Same, it does not nest calls.
-func copyOf(v api.Value) api.Value {
-	top := []api.Value{v}
-	open := [][]api.Value{top}
-	for len(open) > 0 {
-		parts := open[len(open)-1]
-		open = open[:len(open)-1]
-		for i, part := range parts {
-			parts[i].Names = append([]string(nil), part.Names...)
-			parts[i].List = append([]api.Value(nil), part.List...)
-			if len(part.List) > 0 {
-				open = append(open, parts[i].List)
-			}
-		}
-	}
-	return top[0]
+	return fresh.Value(v.List[at]), true
 }
